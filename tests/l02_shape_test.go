@@ -53,6 +53,14 @@ func listsOver(cells []impl.Cell, size int) [][]impl.Cell {
 	return out
 }
 
+// overwrite writes to the unused capacity too, which may be shared without the cells being so.
+func overwrite(s []impl.Cell, c impl.Cell) {
+	s = s[:cap(s)]
+	for i := range s {
+		s[i] = c
+	}
+}
+
 // noShapes are lists that are no shapes, by the reason for it.
 var noShapes = map[string][]impl.Cell{
 	"nil":              nil,
@@ -507,10 +515,7 @@ func TestShapeArguments(t *testing.T) {
 		s := whole[:len(l)]
 		moved, _ := impl.MoveShape(s, 0, 0)
 		for _, result := range [][]impl.Cell{impl.SortCells(s), moved, impl.CornerShape(s)} {
-			result = result[:cap(result)]
-			for i := range result {
-				result[i] = impl.Cell{X: -77, Y: -78}
-			}
+			overwrite(result, impl.Cell{X: -77, Y: -78})
 		}
 		impl.IsShape(s)
 		impl.IsConnectedShape(s)
