@@ -37,14 +37,14 @@ func shapesIn(w int, h int) [][]impl.Cell {
 }
 
 // listsOver returns all lists of up to size cells among the given ones, in any order and with repetitions.
-func listsOver(cells []impl.Cell, size int) [][]impl.Cell {
-	out := [][]impl.Cell{nil}
+func listsOver[T any](values []T, size int) [][]T {
+	out := [][]T{nil}
 	last := out
 	for range size {
-		var next [][]impl.Cell
+		var next [][]T
 		for _, l := range last {
-			for _, c := range cells {
-				next = append(next, append(slices.Clone(l), c))
+			for _, value := range values {
+				next = append(next, append(slices.Clone(l), value))
 			}
 		}
 		out = append(out, next...)
